@@ -46,13 +46,13 @@ const (
 	tenthShift = 63 // nine bytes hold 63 bits: the tenth has room for one
 )
 
-// fault is the error of bytes that cannot be read; its code is what the caller is told.
+// fault is the error of what cannot be read or made; its code is what the caller is told.
 type fault struct {
 	code int64
 }
 
 func (f fault) Error() string {
-	return "bytes cannot be read: code " + strconv.FormatInt(f.code, 10)
+	return "refused with code " + strconv.FormatInt(f.code, 10)
 }
 
 // PutNum writes n in one to ten bytes, so that numbers near 0, below it too, take few.
