@@ -152,6 +152,10 @@ func tooLong(text string) bool {
 	return len(text) > MaxBytes
 }
 
+func isTime(n int64) bool {
+	return 0 <= n && n <= MaxTime
+}
+
 func isLetter(b byte) bool {
 	return 'a' <= b && b <= 'z'
 }
